@@ -7,6 +7,7 @@ import (
 	"go/format"
 	"go/parser"
 	"go/token"
+	"go/types"
 	"os"
 	"path/filepath"
 	"slices"
@@ -165,6 +166,44 @@ func TestNothingForbidden(t *testing.T) {
 			})
 		}
 	}
+}
+
+// At package level stand no variables but such as are written out: tables of literals, errors of one text.
+func TestPackageLevel(t *testing.T) {
+	for layer := range calls {
+		for _, s := range sources(t, layer) {
+			for _, d := range s.tree.Decls {
+				g, ok := d.(*ast.GenDecl)
+				if !ok || g.Tok != token.VAR {
+					continue
+				}
+				for _, spec := range g.Specs {
+					v := spec.(*ast.ValueSpec)
+					out := slices.DeleteFunc(slices.Clone(v.Values), func(e ast.Expr) bool { return !writtenOut(e) })
+					if len(out) != len(v.Names) {
+						t.Errorf("%s: %s is not written out", s.set.Position(v.Pos()), v.Names[0].Name)
+					}
+				}
+			}
+		}
+	}
+}
+
+// writtenOut says whether a value has no call (but errors.New), no function, no map and no pointer in it.
+func writtenOut(value ast.Expr) bool {
+	ok := true
+	ast.Inspect(value, func(n ast.Node) bool {
+		switch x := n.(type) {
+		case *ast.CallExpr:
+			ok = ok && types.ExprString(x.Fun) == "errors.New"
+		case *ast.UnaryExpr:
+			ok = ok && x.Op != token.AND
+		case *ast.FuncLit, *ast.MapType:
+			ok = false
+		}
+		return ok
+	})
+	return ok
 }
 
 // forbidden is what stands there of the words that the program may not use, or nothing.
