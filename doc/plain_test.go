@@ -1,6 +1,7 @@
 package doc
 
 import (
+	"encoding/binary"
 	"hash/crc32"
 	"math/rand"
 	"path"
@@ -12,20 +13,15 @@ import (
 )
 
 // plainNumber is a number's bytes (chapter 2).
-func plainNumber(n int) []byte {
-	if n < 128 {
-		return []byte{byte(n)}
-	}
-	return append([]byte{byte(n%128 + 128)}, plainNumber(n/128)...)
-}
+func plainNumber(n int) []byte { return binary.AppendUvarint(nil, uint64(n)) }
 
 // plainPut is the document's words of documents' bytes.
 func plainPut(l []api.Doc) []byte {
 	out := plainNumber(len(l))
 	for _, d := range l {
 		out = append(append(out, plainNumber(len(d.Path))...), d.Path...)
-		out = append(out, byte(d.Sum), byte(d.Sum>>8), byte(d.Sum>>16), byte(d.Sum>>24))
-		out = append(out, plainNumber(d.Size)...)
+		out = binary.LittleEndian.AppendUint32(out, d.Sum)
+		out = binary.AppendUvarint(out, uint64(d.Size))
 	}
 	return out
 }

@@ -5,10 +5,10 @@ import (
 	"math/rand"
 	"regexp"
 	"slices"
-	"strings"
 	"testing"
 
 	"mudlark/api"
+	"mudlark/chance"
 	"mudlark/prog"
 	"mudlark/span"
 	"mudlark/syntax"
@@ -175,39 +175,12 @@ func someProgram(r *rand.Rand) []api.Inst {
 	return p
 }
 
-// someText is bytes of few kinds.
-func someText(r *rand.Rand, most int) []byte {
-	s := make([]byte, r.Intn(most+1))
-	for i := range s {
-		s[i] = "aabbc\n "[r.Intn(7)]
-	}
-	return s
-}
-
-// someRegex is a regex of chance.
-func someRegex(r *rand.Rand, deep int) string {
-	pieces := strings.Fields(`a b c [ab] . ^ $ \b \B (?m:^) (?m:$) a b [^a]`)
-	var out strings.Builder
-	for range r.Intn(4) {
-		piece := pieces[r.Intn(len(pieces))]
-		if deep > 0 && r.Intn(2) == 0 {
-			open := []string{"(", "(?:"}[r.Intn(2)]
-			piece = open + someRegex(r, deep-1) + []string{"", "|" + someRegex(r, deep-1)}[r.Intn(2)] + ")"
-		}
-		if r.Intn(2) == 0 {
-			piece += []string{"*", "*?", "+", "?", "??", "{2}", "{1,3}", "{0,2}?"}[r.Intn(8)]
-		}
-		out.WriteString(piece)
-	}
-	return out.String()
-}
-
 // P15.1, P15.2, R4: programs of chance, as the plain ones, and alike each time.
 func TestChanceAgainstPlain(t *testing.T) {
 	r := rand.New(rand.NewSource(151))
 	many := 0
 	for range 30000 {
-		p, s := someProgram(r), someText(r, 8)
+		p, s := someProgram(r), chance.Draw(r.Intn).Text(8)
 		check(t, p, s)
 		many += len(plainAll(p, s))
 	}
@@ -220,12 +193,12 @@ func TestChanceAgainstPlain(t *testing.T) {
 func TestWhatFollows(t *testing.T) {
 	r := rand.New(rand.NewSource(152))
 	for range 8000 {
-		n, _, _, e := syntax.Parse(someRegex(r, 3), api.Flags{})
+		n, _, _, e := syntax.Parse(chance.Draw(r.Intn).Regex(3), api.Flags{})
 		p, e2 := prog.Make(n)
 		if e != api.OK || e2 != api.OK {
 			continue
 		}
-		s := someText(r, 9)
+		s := chance.Draw(r.Intn).Text(9)
 		check(t, p, s)
 		rows := Rows(p, s, 100)
 		begins := map[int]bool{}
@@ -262,7 +235,7 @@ func TestAgainstGo(t *testing.T) {
 		_, p := made(t, regex)
 		whole := regexp.MustCompile(regex)
 		for range 500 {
-			s := someText(r, 10)
+			s := chance.Draw(r.Intn).Text(10)
 			if got, want := slices.Collect(All(p, s)), whole.FindAllSubmatchIndex(s, -1); !same(got, want) {
 				t.Errorf("%s on %q: %v, not %v", regex, s, got, want)
 			}

@@ -2,6 +2,7 @@ package mani
 
 import (
 	"bytes"
+	"encoding/binary"
 	"hash/crc32"
 	"math/rand"
 	"slices"
@@ -15,17 +16,10 @@ import (
 )
 
 // plainNumber is a number's bytes (chapter 2).
-func plainNumber(n int) []byte {
-	if n < 128 {
-		return []byte{byte(n)}
-	}
-	return append([]byte{byte(n%128 + 128)}, plainNumber(n/128)...)
-}
+func plainNumber(n int) []byte { return binary.AppendUvarint(nil, uint64(n)) }
 
 // fixed is a fixed number's bytes.
-func fixed(n uint32) []byte {
-	return []byte{byte(n), byte(n >> 8), byte(n >> 16), byte(n >> 24)}
-}
+func fixed(n uint32) []byte { return binary.LittleEndian.AppendUint32(nil, n) }
 
 // plainBody is the bytes of the part of a manifest.
 func plainBody(m api.Manifest) []byte {

@@ -1,6 +1,7 @@
 package post
 
 import (
+	"encoding/binary"
 	"math/rand"
 	"slices"
 	"strings"
@@ -9,12 +10,7 @@ import (
 )
 
 // plainNumber is a number's bytes (chapter 2).
-func plainNumber(n int) []byte {
-	if n < 128 {
-		return []byte{byte(n)}
-	}
-	return append([]byte{byte(n%128 + 128)}, plainNumber(n/128)...)
-}
+func plainNumber(n int) []byte { return binary.AppendUvarint(nil, uint64(n)) }
 
 // plainBlock is the document's words of a block's bytes.
 func plainBlock(places []api.Place) []byte {

@@ -1,7 +1,6 @@
 package prog
 
 import (
-	"math/rand"
 	"slices"
 
 	"mudlark/api"
@@ -164,36 +163,4 @@ func comesTo(p []api.Inst, s []byte, i int) map[int]bool {
 		}
 	}
 	return out
-}
-
-// some is a right tree of chance.
-func some(r *rand.Rand, deep int) api.Node {
-	kind := []api.NodeKind{4, 4, 5, 6, 6, 7}[r.Intn(6)]
-	if deep == 0 || r.Intn(5) == 0 {
-		kind = []api.NodeKind{1, 2, 3, 3, 3, 3, 3, 3, 3, 3, 8, 9, 10, 11, 12, 13}[r.Intn(16)]
-	}
-	n := api.Node{Kind: kind}
-	kids := 0
-	switch kind {
-	case api.NodeSet:
-		for range 1 + r.Intn(3) {
-			b := "abc_ \n\xff"[r.Intn(7)]
-			n.Set[b/64] |= 1 << (b % 64)
-		}
-	case api.NodeCat, api.NodeAlt:
-		kids = 2 + r.Intn(3)
-	case api.NodeRepeat:
-		kids, n.Lazy = 1, r.Intn(2) == 0
-		n.Min = r.Intn(3)
-		n.Max = n.Min + r.Intn(3)
-		if r.Intn(2) == 0 {
-			n.Max = -1
-		}
-	case api.NodeGroup:
-		kids, n.Group = 1, 1+r.Intn(20)
-	}
-	for range kids {
-		n.Kids = append(n.Kids, some(r, deep-1))
-	}
-	return n
 }

@@ -6,6 +6,7 @@ import (
 	"testing"
 
 	"mudlark/api"
+	"mudlark/chance"
 	"mudlark/span"
 	"mudlark/syntax"
 	"mudlark/tree"
@@ -176,17 +177,14 @@ func TestErrors(t *testing.T) {
 func TestChanceAgainstPlain(t *testing.T) {
 	r := rand.New(rand.NewSource(131))
 	for range 6000 {
-		n := some(r, 5)
+		n := chance.Draw(r.Intn).Tree(5)
 		check(t, n)
 		check(t, n)
 		p, e := Make(n)
 		if e != api.OK || len(p) > 300 {
 			continue
 		}
-		s := make([]byte, r.Intn(7))
-		for i := range s {
-			s[i] = "aabc \n\xff"[r.Intn(7)]
-		}
+		s := chance.Draw(r.Intn).Text(6)
 		var spans [][2]int
 		for i := range len(s) + 1 {
 			ends := comesTo(p, s, i)

@@ -9,6 +9,7 @@ import (
 	"testing"
 
 	"mudlark/api"
+	"mudlark/chance"
 	"mudlark/syntax"
 	"mudlark/tree"
 )
@@ -80,7 +81,7 @@ func TestSpots(t *testing.T) {
 		texts = append(texts, []byte{byte(a)}, []byte{byte(a), 'a', byte(a), ' ', byte(a)})
 	}
 	for range 200 {
-		texts = append(texts, someText(r, 12))
+		texts = append(texts, chance.Draw(r.Intn).Text(12))
 	}
 	for _, s := range texts {
 		for i := -2; i <= len(s)+2; i++ {
@@ -101,7 +102,7 @@ func TestChanceAgainstPlain(t *testing.T) {
 	r := rand.New(rand.NewSource(122))
 	found := 0
 	for range 12000 {
-		n, s := some(r, 5), someText(r, 9)
+		n, s := chance.Draw(r.Intn).Tree(5), chance.Draw(r.Intn).Text(9)
 		check(t, n, s)
 		check(t, n, s)
 		if Find(n, s) {
@@ -109,7 +110,7 @@ func TestChanceAgainstPlain(t *testing.T) {
 		}
 	}
 	for range 40 {
-		check(t, some(r, 3), someText(r, 200))
+		check(t, chance.Draw(r.Intn).Tree(3), chance.Draw(r.Intn).Text(200))
 	}
 	if found < 4000 || found > 11000 {
 		t.Errorf("%d", found)
@@ -152,7 +153,7 @@ func TestSimpleTreesMatchTheSame(t *testing.T) {
 	r := rand.New(rand.NewSource(124))
 	told := 0
 	for range 6000 {
-		n, s := some(r, 5), someText(r, 9)
+		n, s := chance.Draw(r.Intn).Tree(5), chance.Draw(r.Intn).Text(9)
 		if simple, e := tree.Simple(n); e == api.OK {
 			told++
 			if a, b := Spans(n, s), Spans(simple, s); !slices.Equal(a, b) {
@@ -169,7 +170,7 @@ func TestSimpleTreesMatchTheSame(t *testing.T) {
 func TestWhatFollows(t *testing.T) {
 	r := rand.New(rand.NewSource(125))
 	for range 4000 {
-		a, b, s := some(r, 3), some(r, 3), someText(r, 8)
+		a, b, s := chance.Draw(r.Intn).Tree(3), chance.Draw(r.Intn).Tree(3), chance.Draw(r.Intn).Text(8)
 		var joined [][2]int
 		for i := range len(s) + 1 {
 			for j := i; j <= len(s); j++ {

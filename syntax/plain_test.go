@@ -213,25 +213,6 @@ func someFlags(r *rand.Rand) api.Flags {
 	return api.Flags{Fold: r.Intn(2) == 0, Lines: r.Intn(2) == 0, All: r.Intn(2) == 0}
 }
 
-// someTree is a regex that is mostly a tree.
-func someTree(r *rand.Rand, deep int) string {
-	pieces := strings.Fields(`a k [^k] [^\d\D] [b-d] . ^ $ \b \B \A \z \w \W (?i) (?-i) (?s) (?m) (?-sm) (?i-i) | [[:lower:]]`)
-	repeats := strings.Fields(`* + ? *? {2} {0,3}? {1,} {0}`)
-	var out strings.Builder
-	for range r.Intn(5) {
-		piece := pieces[r.Intn(len(pieces))]
-		if deep > 0 && r.Intn(3) == 0 {
-			opens := []string{"(", "(?:", "(?i:", "(?s-i:", "(?m:"}
-			piece = opens[r.Intn(len(opens))] + someTree(r, deep-1) + ")"
-		}
-		out.WriteString(piece)
-		if piece != "|" && (piece[0] != '(' || piece[len(piece)-1] != ')' || strings.ContainsAny(piece, ":") || len(piece) > 6) && r.Intn(3) == 0 {
-			out.WriteString(repeats[r.Intn(len(repeats))])
-		}
-	}
-	return out.String()
-}
-
 // someRegex is some words of chance, right or wrong ones.
 func someRegex(r *rand.Rand, most int) string {
 	pieces := strings.Fields(`a k . ^ \b ( ( (?: (?i: ) ) ) | * {2} (?i) (?-i) [^k] \c {7,1}`)

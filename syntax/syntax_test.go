@@ -6,6 +6,7 @@ import (
 	"testing"
 
 	"mudlark/api"
+	"mudlark/chance"
 	"mudlark/lex"
 )
 
@@ -158,7 +159,7 @@ func TestChanceAgainstPlain(t *testing.T) {
 	r := rand.New(rand.NewSource(101))
 	right := 0
 	for range 40000 {
-		regex, f := someTree(r, 5), someFlags(r)
+		regex, f := chance.Draw(r.Intn).Regex(5), someFlags(r)
 		check(t, regex, f)
 		check(t, regex, f)
 		check(t, someRegex(r, 14), f)
@@ -189,7 +190,7 @@ func TestWhatFollows(t *testing.T) {
 	r := rand.New(rand.NewSource(102))
 	told := 0
 	for range 20000 {
-		a, b, f := someTree(r, 3), someTree(r, 3), someFlags(r)
+		a, b, f := chance.Draw(r.Intn).Regex(3), chance.Draw(r.Intn).Regex(3), someFlags(r)
 		first, g, _, e := Parse(a, f)
 		second, h, _, e2 := Parse(b, f)
 		if e != 0 || e2 != 0 || strings.Contains(a+b, "[:") || g+h > 19 {
@@ -221,7 +222,7 @@ func TestNodesAreNew(t *testing.T) {
 	check(t, regex, api.Flags{})
 	r := rand.New(rand.NewSource(103))
 	for range 2000 {
-		n, _, _, _ := Parse(someTree(r, 4), api.Flags{})
+		n, _, _, _ := Parse(chance.Draw(r.Intn).Regex(4), api.Flags{})
 		seen := map[*api.Node]bool{}
 		nodes(n, 0, func(n api.Node, _ int) {
 			for i := range n.Kids[:cap(n.Kids)] {

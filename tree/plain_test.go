@@ -158,38 +158,6 @@ func same(a, b api.Node) bool {
 	return a.Kind == b.Kind && a.Set == b.Set && a.Min == b.Min && a.Max == b.Max && a.Lazy == b.Lazy && a.Group == b.Group && slices.EqualFunc(a.Kids, b.Kids, same)
 }
 
-// some is a right tree of chance.
-func some(r *rand.Rand, deep int) api.Node {
-	kind := []api.NodeKind{3, 4, 5, 6, 6, 7}[r.Intn(6)]
-	if deep == 0 || r.Intn(4) == 0 {
-		kind = append(leaves(), 1, 2, 3, 3, 3, 3)[r.Intn(14)]
-	}
-	n := api.Node{Kind: kind}
-	kids := 0
-	switch kind {
-	case api.NodeSet:
-		n.Set[r.Intn(4)] = 1 << r.Intn(64)
-	case api.NodeCat, api.NodeAlt:
-		kids = 2 + r.Intn(3)
-	case api.NodeRepeat:
-		kids, n.Lazy = 1, r.Intn(2) == 0
-		n.Min = r.Intn(3)
-		n.Max = n.Min + r.Intn(4)
-		if r.Intn(3) == 0 {
-			n.Max = -1
-		}
-		if r.Intn(40) == 0 {
-			n.Min, n.Max = r.Intn(40), 40+r.Intn(61)
-		}
-	case api.NodeGroup:
-		kids, n.Group = 1, 1+r.Intn(20)
-	}
-	for range kids {
-		n.Kids = append(n.Kids, some(r, deep-1))
-	}
-	return n
-}
-
 // spoilt is a tree in which something of one node is another thing.
 func spoilt(r *rand.Rand, n api.Node) api.Node {
 	if len(n.Kids) > 0 && r.Intn(3) > 0 {

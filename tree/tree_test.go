@@ -6,6 +6,7 @@ import (
 	"testing"
 
 	"mudlark/api"
+	"mudlark/chance"
 )
 
 // check holds all calls of a tree against the plain ones.
@@ -204,8 +205,8 @@ func TestTooGreat(t *testing.T) {
 func TestChanceAgainstPlain(t *testing.T) {
 	r := rand.New(rand.NewSource(111))
 	great, wrong := 0, 0
-	for range 20000 {
-		n := some(r, 6)
+	for range 6000 {
+		n := chance.Draw(r.Intn).Tree(6)
 		check(t, n)
 		check(t, n)
 		if _, e := Simple(n); e == api.ErrSize {
@@ -217,7 +218,7 @@ func TestChanceAgainstPlain(t *testing.T) {
 			wrong++
 		}
 	}
-	if great < 70 || wrong < 10000 {
+	if great < 25 || wrong < 2500 {
 		t.Errorf("%d, %d", great, wrong)
 	}
 }
@@ -225,8 +226,8 @@ func TestChanceAgainstPlain(t *testing.T) {
 // P11.3: what a simple tree is.
 func TestWhatFollows(t *testing.T) {
 	r := rand.New(rand.NewSource(112))
-	for range 20000 {
-		n := some(r, 6)
+	for range 6000 {
+		n := chance.Draw(r.Intn).Tree(6)
 		simple, e := Simple(n)
 		if e != api.OK {
 			continue
@@ -258,8 +259,8 @@ func within(t *testing.T, n api.Node) {
 // R3: a simple tree has memory of its own, each list its own, and the tree is as it was.
 func TestMemory(t *testing.T) {
 	r := rand.New(rand.NewSource(113))
-	for range 5000 {
-		n := some(r, 5)
+	for range 1500 {
+		n := chance.Draw(r.Intn).Tree(5)
 		before := copyOf(n)
 		simple, _ := Simple(n)
 		if !same(n, before) {
