@@ -3,7 +3,6 @@ package derive
 import (
 	"math/rand"
 	"reflect"
-	"slices"
 	"strings"
 	"testing"
 
@@ -233,17 +232,4 @@ func TestMemory(t *testing.T) {
 	clear(p.Prog)
 	p.Query.Grams = append(p.Query.Grams[:0], "?")
 	check(t, "ab[cd]e|(x*)", api.Flags{})
-}
-
-// What is gone through is left where a loop ends.
-func TestNodesAreLeft(t *testing.T) {
-	var l []api.NodeKind
-	for n := range nodes(over(api.NodeCat, leaf('a'), leaf('b'))) {
-		if l = append(l, n.Kind); len(l) == 2 {
-			break
-		}
-	}
-	if !slices.Equal(l, []api.NodeKind{api.NodeCat, api.NodeSet}) {
-		t.Error(l)
-	}
 }

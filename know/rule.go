@@ -1,7 +1,6 @@
 package know
 
 import (
-	"iter"
 	"math/bits"
 
 	"mudlark/api"
@@ -82,29 +81,5 @@ func (r rule) repeat(kids ...Info) Info {
 		return anything()
 	default:
 		return loosened(kid)
-	}
-}
-
-// upward goes through a tree's nodes, kids first. It keeps the way to a node by itself, as a tree may be deeper than calls can be.
-func upward(n api.Node) iter.Seq[api.Node] {
-	type step struct {
-		node api.Node
-		gone int // of its kids
-	}
-	return func(yield func(api.Node) bool) {
-		way := []step{{node: n}}
-		for len(way) > 0 {
-			at := &way[len(way)-1]
-			if at.gone < len(at.node.Kids) {
-				at.gone++
-				way = append(way, step{node: at.node.Kids[at.gone-1]})
-				continue
-			}
-			node := at.node
-			way = way[:len(way)-1]
-			if !yield(node) {
-				return
-			}
-		}
 	}
 }
