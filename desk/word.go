@@ -72,12 +72,12 @@ func first(word string) (b string, size int) {
 }
 
 // wrong is thrown where a line is none.
-type wrong struct{}
+type wrong struct{ e api.Errno }
 
 // must throws, if what must be is not so.
 func must(ok bool) {
 	if !ok {
-		panic(wrong{})
+		panic(wrong{api.ErrCommand})
 	}
 }
 

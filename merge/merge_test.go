@@ -235,7 +235,7 @@ func TestLimits(t *testing.T) {
 		fresh int
 		whole bool
 	}{
-		{many(39), []api.Change{put("x", "1")}, 1, false}, {many(40), []api.Change{put("x", "1")}, 41, true}, {many(40), []api.Change{take("07")}, 0, false}, {many(40), nil, 0, false}, {many(40), []api.Change{put("07", "2")}, 1, false}, {many(40), []api.Change{put("07", "1"), put("x", "")}, 41, true}, {many(40), []api.Change{take("07"), put("x", "")}, 1, false}, {many(41), nil, 41, true}, {append(many(40), Part{}, Part{Files: []api.File{file("y", "")}, Dead: []int{0}}), nil, 0, false},
+		{many(39), []api.Change{put("x", "1")}, 1, false}, {many(39), []api.Change{put("x", "1"), put("y", "1")}, 2, false}, {many(40), []api.Change{put("x", "1")}, 41, true}, {many(40), []api.Change{take("07")}, 0, false}, {many(40), nil, 0, false}, {many(40), []api.Change{put("07", "2")}, 1, false}, {many(40), []api.Change{put("07", "1"), put("x", "")}, 41, true}, {many(40), []api.Change{take("07"), put("x", "")}, 1, false}, {many(41), nil, 41, true}, {append(many(40), Part{}, Part{Files: []api.File{file("y", "")}, Dead: []int{0}}), nil, 0, false},
 	} {
 		dead, fresh, e := check(t, l.parts, l.l)
 		if e != api.OK || len(fresh) != l.fresh || (len(dead[3]) == 2) != l.whole {

@@ -213,6 +213,48 @@ func TestNone(t *testing.T) {
 	}
 }
 
+// P31.2: where another corpus, or an error, is near to one that fits, but is none.
+func TestJust(t *testing.T) {
+	b := belief{corpus: []api.File{file("a", "1"), file("b", "2")}}
+	for i, l := range [][]api.File{{file("a", "1"), file("b", "3")}, {file("a", "1"), file("c", "2")}, {file("a", "1")}, {file("a", "1"), file("b", "2"), file("c", "3")}} {
+		if b.oneOf(func(files []api.File) bool { return same(files, l) }) {
+			t.Error(i)
+		}
+		b.other, b.perhaps = l, true
+		if !b.oneOf(func(files []api.File) bool { return same(files, l) }) {
+			t.Error(i)
+		}
+		b.perhaps = false
+	}
+	b = belief{corpus: []api.File{{Path: "a", Bytes: make([]byte, 1<<20-1)}}, waits: []api.Change{{Path: "b", Bytes: []byte("1")}}}
+	if b.long() {
+		t.Error("2^20 bytes")
+	}
+	b.waits[0].Bytes = []byte("12")
+	if !b.long() {
+		t.Error("one more")
+	}
+	w := made(t, 1<<20)
+	for _, e := range []api.Errno{ok, null, arg, long, api.ErrSyntax, corrupt, none, known, down} {
+		if w.excused(e) {
+			t.Error(e)
+		}
+	}
+}
+
+// P31.2: a deed that crashes the disk does so; nothing waits then, whatever is told.
+func TestCrash(t *testing.T) {
+	w := made(t, 1<<20)
+	play(t, w, step{put("a", "1"), ok, ""}, step{Deed{What: arm, N: 1}, ok, ""}, step{Deed{What: crash}, ok, ""}, step{put("a", "1"), ok, ""}, step{Deed{What: commit}, ok, "a=1"})
+	if got := w.disk.Stat().Crashes; got != 1 {
+		t.Error(got)
+	}
+	play(t, w, step{Deed{What: cut, N: 1}, ok, "a=1"}, step{put("b", "2"), ok, "a=1"}, step{Deed{What: open}, corrupt, "a=1"})
+	if len(w.waits) > 0 {
+		t.Error(w.waits)
+	}
+}
+
 // R3: deeds are not changed and not kept, corpora are new memory.
 func TestMemory(t *testing.T) {
 	w := made(t, 1<<20)

@@ -131,8 +131,8 @@ func TestErrors(t *testing.T) {
 	if b, e := Make(wrong...); b != nil || e != api.ErrArg {
 		t.Errorf("wrong ones: %d, %d", len(b), e)
 	}
-	if _, e := Make(many[:2]...); e != api.OK {
-		t.Errorf("two: %d", e)
+	if b, e := Make(many[:17]...); e != api.OK || len(b) < 51<<20 {
+		t.Errorf("17: %d, %d", len(b), e)
 	}
 }
 
@@ -208,6 +208,10 @@ func TestCorrupt(t *testing.T) {
 		},
 		"a place at an end": func(p []api.Part) []api.Part {
 			p[3].Bytes = postings(func(l []api.Posting) []api.Posting { l[0].Places[0] = api.Place{Doc: 2, At: 4}; return l })
+			return p
+		},
+		"a place in no document": func(p []api.Part) []api.Part {
+			p[3].Bytes = postings(func(l []api.Posting) []api.Posting { l[0].Places[0].Doc = 3; return l })
 			return p
 		},
 		"a place elsewhere": func(p []api.Part) []api.Part {

@@ -384,7 +384,7 @@ func TestMemory(t *testing.T) {
 	clear(a.Bytes)
 	clear(s.Waits()[0].Bytes)
 	clear(s.Waits())
-	clear(s.Manifest().Shards[0].Dead)
+	s.Manifest().Shards[0].Dead[0] = 1
 	s.Manifest().Shards[0].Dead = []int{7}
 	l, _ := s.Shards()
 	l[0].Dead[0] = 1
@@ -511,6 +511,17 @@ func TestFull(t *testing.T) {
 	}
 	if failed < 300 {
 		t.Error(failed)
+	}
+}
+
+// P28.3: a file that has the name of one that is laid is removed first.
+func TestLaid(t *testing.T) {
+	d := disk(t, 1<<20)
+	s := opened(t, d)
+	ok(t, d.Create("m.new"), d.Append("m.new", []byte("x")), d.Create("s.1"), d.Append("s.1", []byte("y")), d.Create("t"), s.Put(file("a", "1")))
+	before := d.Stat().Turns
+	if ok(t, s.Commit()); d.Stat().Turns != before+11 || corpus(t, opened(t, d)) != "a=1" || strings.Join(d.List(), " ") != "m s.1" {
+		t.Error(d.Stat(), d.List())
 	}
 }
 
